@@ -508,8 +508,8 @@ func TestP11_3_HoldsOnToNothing(t *testing.T) {
 
 // ends are numbers for places: around the begin and the end of n places, and the greatest and least ones.
 func ends(n int) []int {
-	l := []int{math.MinInt, math.MinInt + 1, math.MinInt32, -n - 1, -n, -2, -1, 0, 1, 2, n / 2, n/2 + 1, n - 2, n - 1, n, n + 1, n + 2, 2 * n,
-		math.MaxInt32, 1 << 32, math.MaxInt - 1, math.MaxInt}
+	l := []int{math.MinInt, math.MinInt + 1, -1 << 44, -n - 1, -n, -2, -1, 0, 1, 2, n / 2, n/2 + 1, n - 2, n - 1, n, n + 1, n + 2, 2 * n,
+		1 << 44, 1<<44 + 1, math.MaxInt - 1, math.MaxInt}
 	for i := 256; i < n; i += 256 {
 		l = append(l, i-1, i, i+1)
 	}
